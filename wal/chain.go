@@ -17,7 +17,7 @@ func found(d *disk.Disk, p picture) (*Log, [][]byte) {
 	if l.next <= l.meta.Base {
 		l.chain, l.next, records = nil, l.meta.Base+1, nil
 	}
-	l.from, l.stray = l.next, stray(heads, l.next)
+	l.stray = stray(heads, l.next)
 	l.exposed = len(l.chain) == 0 && len(heads) > 0
 	above := records[len(records)-int(l.next-l.meta.Base-1):]
 	return l, copies(above)

@@ -48,6 +48,10 @@ func (b *bench) flushed() {
 
 // put is a call that writes the meta record m.
 func (b *bench) put(e api.Errno, m wal.Meta) bool {
+	b.t.Helper()
+	if b.l.Meta() != m { // whether or not the disk has failed
+		b.t.Fatalf("the meta record is %v, not %v: %v", b.l.Meta(), m, e)
+	}
 	if e == api.OK {
 		b.flushed()
 		b.meta = m
@@ -81,7 +85,11 @@ func (b *bench) cut() {
 		ok(b.t, b.l.Cut(n))
 		return
 	}
-	if b.put(b.l.Cut(n), b.meta) {
+	e := b.l.Cut(n)
+	if b.l.Next() != n {
+		b.t.Fatalf("behind Cut(%d): next %d, %v", n, b.l.Next(), e)
+	}
+	if b.put(e, b.meta) {
 		if !b.isCut {
 			b.isCut, b.ghost = true, b.safe
 		}

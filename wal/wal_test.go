@@ -486,8 +486,8 @@ func TestDead(t *testing.T) {
 			if e := call(l); e != want || !l.Dead() {
 				t.Errorf("%s on a failing disk: %v, dead %v", name, e, l.Dead())
 			}
-			if l.Next() != 4 || l.Segments() != 1 || l.Meta() != (wal.Meta{Vote: -1}) {
-				t.Errorf("%s on a failing disk changed the log: %d %d %v", name, l.Next(), l.Segments(), l.Meta())
+			if appends := name == "Append" || name == "Flush"; appends && stateOf(l) != (state{4, 1, wal.Meta{Vote: -1}}) {
+				t.Errorf("%s on a failing disk changed the log: %v", name, stateOf(l))
 			}
 			d.Crash(nil) // the disk lives again, the log does not
 			for other, call := range calls {
@@ -502,6 +502,109 @@ func TestDead(t *testing.T) {
 				t.Error("a dead log names another error")
 			}
 		}
+	}
+}
+
+// state is what a log tells of itself.
+type state struct {
+	next     int64
+	segments int
+	meta     wal.Meta
+}
+
+func stateOf(l *wal.Log) state { return state{l.Next(), l.Segments(), l.Meta()} }
+
+// eight is a log of eight records in three segments, of the term 3, the vote 2 and the base 1.
+func eight(t *testing.T) (*disk.Disk, *wal.Log) {
+	t.Helper()
+	d := newDisk(t, 18)
+	l, _, _ := opened(t, d, 0, 4, 4)
+	add(t, l, "a,b,c,d,e,f,g,h")
+	ok(t, l.Drop(1))
+	ok(t, l.Set(3, 2))
+	return d, l
+}
+
+// P4.3: what Cut, Drop and Set have changed ahead of the meta record's writing stands, though that goes wrong: by a flush that fails, or as the disk was dead. What is behind it, the segments that Drop frees, is not done.
+func TestChangesStandOnAFailingDisk(t *testing.T) {
+	set := func(term int64, vote int) func(*wal.Log) api.Errno {
+		return func(l *wal.Log) api.Errno { return l.Set(term, vote) }
+	}
+	drop := func(n int64) func(*wal.Log) api.Errno { return func(l *wal.Log) api.Errno { return l.Drop(n) } }
+	cut := func(n int64) func(*wal.Log) api.Errno { return func(l *wal.Log) api.Errno { return l.Cut(n) } }
+	meta := wal.Meta{Term: 3, Vote: 2, Base: 1}
+	for name, c := range map[string]struct {
+		call func(*wal.Log) api.Errno
+		want state
+	}{
+		"Set(9, 1)":        {set(9, 1), state{9, 3, wal.Meta{Term: 9, Vote: 1, Base: 1}}},
+		"Set(0, -1)":       {set(0, -1), state{9, 3, wal.Meta{Term: 0, Vote: -1, Base: 1}}},
+		"Set(greatest, 4)": {set(greatest, 4), state{9, 3, wal.Meta{Term: greatest, Vote: 4, Base: 1}}},
+		"Drop(1)":          {drop(1), state{9, 3, meta}},
+		"Drop(2)":          {drop(2), state{9, 3, wal.Meta{Term: 3, Vote: 2, Base: 2}}},
+		"Drop(3)":          {drop(3), state{9, 3, wal.Meta{Term: 3, Vote: 2, Base: 3}}},
+		"Drop(8)":          {drop(8), state{9, 3, wal.Meta{Term: 3, Vote: 2, Base: 8}}},
+		"Cut(2)":           {cut(2), state{2, 1, meta}},
+		"Cut(4)":           {cut(4), state{4, 1, meta}},
+		"Cut(5)":           {cut(5), state{5, 2, meta}},
+		"Cut(7)":           {cut(7), state{7, 2, meta}},
+		"Cut(8)":           {cut(8), state{8, 3, meta}},
+	} {
+		d, l := eight(t)
+		d.Fail()
+		if e := c.call(l); e != api.ErrFlush || !l.Dead() || stateOf(l) != c.want {
+			t.Errorf("%s, with a flush that fails: %v, dead %v, %v", name, e, l.Dead(), stateOf(l))
+		}
+		d.Crash([]int{-1}) // the slot was written, so that it may be kept
+		if _, _, m := opened(t, d, 0, 4, 4); m != c.want.meta {
+			t.Errorf("%s, with a flush that fails, is not on the disk: %v", name, m)
+		}
+		d, l = eight(t)
+		d.Fail()
+		d.Flush()
+		if e := c.call(l); e != api.ErrDead || !l.Dead() || stateOf(l) != c.want {
+			t.Errorf("%s, with a dead disk: %v, dead %v, %v", name, e, l.Dead(), stateOf(l))
+		}
+	}
+}
+
+// P4.3: what is refused for its arguments, and a cut of nothing, changes nothing and asks the disk for nothing, though that is about to fail.
+func TestRefusedOnAFailingDisk(t *testing.T) {
+	d, l := eight(t)
+	d.Fail()
+	was := stateOf(l)
+	for name, e := range map[string]api.Errno{
+		"Set(-1, 0)": l.Set(-1, 0), "Set(1, 5)": l.Set(1, api.MaxNodes), "Set(1, -2)": l.Set(1, -2),
+		"Drop(0)": l.Drop(0), "Drop(9)": l.Drop(9), "Cut(1)": l.Cut(1), "Cut(10)": l.Cut(10),
+	} {
+		if e != api.ErrArg {
+			t.Error(name, e)
+		}
+	}
+	if e := l.Cut(9); e != api.OK {
+		t.Error("a cut of nothing", e)
+	}
+	if stateOf(l) != was || l.Dead() || d.Dead() {
+		t.Error("what was refused has changed the log", stateOf(l), l.Dead(), d.Dead())
+	}
+}
+
+// P4.3: the base is n, too, where Drop flushes ahead of the meta record, as a crash has left a segment behind lost records.
+func TestDropPastAStrayOnAFailingDisk(t *testing.T) {
+	d := newDisk(t, 18)
+	l, _, _ := opened(t, d, 0, 4, 4)
+	add(t, l, "a")
+	ok(t, l.Flush())
+	add(t, l, "b,c,d,e,f,g")
+	d.Crash([]int{0, 0, 0, 0, 0, 0, -1, -1}) // the head of the third segment, and g
+	l, records, _ := opened(t, d, 0, 4, 4)
+	if records != "a" {
+		t.Fatal("opened", records)
+	}
+	add(t, l, "B,C,D,E,F,G")
+	d.Fail()
+	if e := l.Drop(6); e != api.ErrFlush || !l.Dead() || stateOf(l) != (state{8, 3, wal.Meta{Vote: -1, Base: 6}}) {
+		t.Error("Drop(6)", e, l.Dead(), stateOf(l))
 	}
 }
 
