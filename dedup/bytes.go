@@ -87,53 +87,41 @@ func Load(b []byte) (*Table, api.Errno) {
 	return t, api.OK
 }
 
-// load reads what is kept of a nexus, field by field: the first field that is short or wrong is told.
+// load reads what is kept of a nexus. Whether bytes of its count and floor are missing is asked ahead of what these say, as that error is named first.
 func (m *memory) load(r *field.Reader, nexus int) api.Errno {
-	count, e := number(r, byteSize, 0, api.MaxKept)
-	if e != api.OK {
-		return e
+	count, floor := r.Num(byteSize), r.Num(numberSize)
+	if isShort(r) {
+		return api.ErrShort
 	}
-	m.floor, e = number(r, numberSize, 0, highest)
-	if e != api.OK {
-		return e
+	if count > api.MaxKept || floor < 0 || floor > highest {
+		return api.ErrForm
 	}
-	ahead := m.floor
+	m.floor = floor
+	ahead := floor
 	for range count {
-		seq, e := number(r, numberSize, ahead+1, highest)
-		if e != api.OK {
-			return e
-		}
-		a, e := readAnswer(r, place{nexus, seq})
+		a, e := readAnswer(r, nexus, ahead)
 		if e != api.OK {
 			return e
 		}
 		m.answers.put(a)
-		ahead = seq
+		ahead = a.number()
 	}
 	return api.OK
 }
 
-func readAnswer(r *field.Reader, at place) (answer, api.Errno) {
-	b := r.Bytes(lengthSize)
+// readAnswer reads an answer and its number, which must be above ahead. As of a nexus, whether bytes of either are missing is asked first.
+func readAnswer(r *field.Reader, nexus int, ahead int64) (answer, api.Errno) {
+	seq, b := r.Num(numberSize), r.Bytes(lengthSize)
 	if isShort(r) {
 		return answer{}, api.ErrShort
+	}
+	if seq <= ahead || seq > highest {
+		return answer{}, api.ErrForm
 	}
 	if _, e := GetReply(b); e != api.OK {
 		return answer{}, e
 	}
-	return answer{at, string(b)}, api.OK
-}
-
-// number is the next number, which must be from least to most.
-func number(r *field.Reader, size int, least, most int64) (int64, api.Errno) {
-	n := r.Num(size)
-	if isShort(r) {
-		return 0, api.ErrShort
-	}
-	if n < least || n > most {
-		return 0, api.ErrForm
-	}
-	return n, api.OK
+	return answer{place{nexus, seq}, string(b)}, api.OK
 }
 
 // isShort tells whether bytes were missing: of fields as they are read here a Reader has no other error, and of bytes that are left it tells ErrForm.

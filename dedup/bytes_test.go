@@ -117,7 +117,8 @@ func TestLoadTellsTheFirst(t *testing.T) {
 		{map[int]part{3: long, 5: short}, 0, nil, api.ErrSize},
 		{map[int]part{3: long}, 1, nil, api.ErrSize},
 		{map[int]part{3: wrong}, 1, nil, api.ErrForm},
-		{map[int]part{3: wrong}, 100, nil, api.ErrForm}, // behind the floor
+		{map[int]part{3: wrong}, 12 * 9, nil, api.ErrForm},    // all of the floor is there
+		{map[int]part{3: wrong}, 12*9 + 1, nil, api.ErrShort}, // and a byte less
 		{map[int]part{3: long}, 0, []byte{0}, api.ErrSize},
 		{map[int]part{3: short}, 0, []byte{0}, api.ErrShort},
 		{map[int]part{3: partOf(0, 1)}, 0, []byte{0}, api.ErrForm},
@@ -129,6 +130,49 @@ func TestLoadTellsTheFirst(t *testing.T) {
 		b = append(b[:len(b)-c.cut], c.behind...)
 		if d, e := dedup.Load(b); e != c.want || d != nil {
 			t.Error(i, e, "not", c.want)
+		}
+	}
+}
+
+// P12.3, P1: a count and a floor, or a number and its answer, that are wrong and cut: what is missing of the two is told ahead of what they say, and what is missing behind them is not.
+func TestLoadOfWrongAndCutBytes(t *testing.T) {
+	good := replyBytes(api.Reply{Data: []byte("ab")})
+	long := replyBytes(api.Reply{Data: make([]byte, 4097)})
+	const head = 1 + 8
+	oneRow := 8 + 2 + len(good)
+	for i, c := range []struct {
+		p    part
+		need int // so many bytes are read to tell it
+		want api.Errno
+	}{
+		{part{count: 65}, head, api.ErrForm},
+		{part{count: 255, floor: highest + 1}, head, api.ErrForm},
+		{part{count: 1, floor: -1, rows: []row{{0, good}}}, head, api.ErrForm},
+		{part{floor: highest + 1}, head, api.ErrForm},
+		{part{count: 1, rows: []row{{0, good}}}, head + oneRow, api.ErrForm},
+		{part{count: 1, rows: []row{{-1, good}}}, head + oneRow, api.ErrForm},
+		{part{count: 1, rows: []row{{highest + 1, good}}}, head + oneRow, api.ErrForm},
+		{part{count: 1, floor: 5, rows: []row{{5, good}}}, head + oneRow, api.ErrForm},
+		{part{count: 2, floor: 5, rows: []row{{4, good}, {5, good}}}, head + oneRow, api.ErrForm},
+		{part{count: 2, rows: []row{{6, good}, {6, good}}}, head + 2*oneRow, api.ErrForm},
+		{part{count: 3, rows: []row{{6, good}, {5, good}, {4, good}}}, head + 2*oneRow, api.ErrForm},
+		{part{count: 1, rows: []row{{0, nil}}}, head + 10, api.ErrForm}, // an answer of no bytes is there, but GetReply's error is named behind
+		{part{count: 1, rows: []row{{0, long}}}, head + 10 + len(long), api.ErrForm},
+		{part{count: 1, rows: []row{{1, long}}}, head + 10 + len(long), api.ErrSize},
+		{part{count: 1, rows: []row{{1, append(slices.Clone(good), 0)}}}, head + oneRow + 1, api.ErrForm},
+	} {
+		for _, nexus := range []int{0, 7, 15} {
+			b := tableBytes(map[int]part{nexus: c.p})
+			need := nexus*head + c.need
+			for n := range len(b) + 1 {
+				want := c.want
+				if n < need {
+					want = api.ErrShort
+				}
+				if d, e := dedup.Load(b[:n]); e != want || d != nil {
+					t.Fatal(i, nexus, "cut to", n, e, "not", want)
+				}
+			}
 		}
 	}
 }
@@ -180,7 +224,7 @@ func TestLoadOfTooManyBytes(t *testing.T) {
 	}
 }
 
-// P12.5, P7: whatever bytes are read as a table are just those that it writes.
+// P12.3, P12.5, P7: whatever bytes are read as a table are just those that it writes; of others the error is the first one.
 func TestLoadOfChangedBytes(t *testing.T) {
 	rnd := rand.New(rand.NewSource(3))
 	told := map[api.Errno]int{}
@@ -194,6 +238,9 @@ func TestLoadOfChangedBytes(t *testing.T) {
 		}
 		d, e := dedup.Load(b)
 		told[e]++
+		if want := loadError(b); e != want {
+			t.Fatalf("%v and not %v: % x", e, want, b)
+		}
 		if e == api.OK && !bytes.Equal(d.Bytes(), b) {
 			t.Fatalf("% x", b)
 		}

@@ -66,6 +66,37 @@ func partOf(floor int64, seqs ...int64) part {
 	return p
 }
 
+// loadError is Load's error of b, by the plainest means: each piece is there as a whole, or short; then it is looked at.
+func loadError(b []byte) api.Errno {
+	for range 16 {
+		if len(b) < 9 {
+			return api.ErrShort
+		}
+		count, ahead := int(b[0]), int64(binary.BigEndian.Uint64(b[1:]))
+		if count > 64 || ahead < 0 || ahead > highest {
+			return api.ErrForm
+		}
+		b = b[9:]
+		for range count {
+			if len(b) < 10 || len(b)-10 < int(binary.BigEndian.Uint16(b[8:])) {
+				return api.ErrShort
+			}
+			seq, end := int64(binary.BigEndian.Uint64(b)), 10+int(binary.BigEndian.Uint16(b[8:]))
+			if seq <= ahead || seq > highest {
+				return api.ErrForm
+			}
+			if _, e := dedup.GetReply(b[10:end]); e != api.OK {
+				return e
+			}
+			ahead, b = seq, b[end:]
+		}
+	}
+	if len(b) > 0 {
+		return api.ErrForm
+	}
+	return api.OK
+}
+
 func put(t *testing.T, d *dedup.Table, nexus int, seq int64, r api.Reply) {
 	t.Helper()
 	if e := d.Put(nexus, seq, r); e != api.OK {
