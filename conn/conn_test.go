@@ -136,8 +136,10 @@ func TestDeadReader(t *testing.T) {
 			b := x.bytes(login(0x87, "InitiatorName", "i", "TargetName", "t"))
 			f(b)
 			x.feed(b)
+			if x.c.Stage() != conn.Closed {
+				t.Fatal(name)
+			}
 			x.heard(x.hear())
-			t.Log(name)
 			x.isClosed()
 		}
 	}

@@ -29,20 +29,20 @@ func TestRejectedCommands(t *testing.T) {
 		{cmd(101, 0x80, 2, 4, 1, 2), 4, nil, false}, // data, and it does not write
 		{cmd(101, 0xc0, 2, 4, 1, 2), 4, nil, false}, // it reads
 		{cmd(101, 0xa0, 2, 1, 1, 2), 4, nil, false}, // more data than its length
-		{cmd(101, 0xa0, 2, 0, 1), 4, nil, false},    //
+		{cmd(101, 0xa0, 2, 0, 1), 4, nil, false},
 		{cmd(101, 0xe0, 2, 1, 1, 2), 4, nil, false}, // ahead of what reads and writes
 		{cmd(101, 0xa0, 2, 4, 1), 4, []string{"ImmediateData", "No"}, false},
 		{cmd(101, 0xa0, 2, 600, count(1, 513)...), 4, []string{"FirstBurstLength", "512"}, false},
 		{cmd(101, 0xa0, 2, 5000, count(1, 5001)...), 4, nil, false}, // ahead of what writes too much
 		{cmd(101, 0x00, 2, 0), 4, nil, false},                       // F is 0, and it does not write
-		{cmd(101, 0x40, 2, 0), 4, nil, false},                       //
-		{cmd(101, 0x20, 2, 10), 4, nil, false},                      // all must be asked for
+		{cmd(101, 0x40, 2, 0), 4, nil, false},
+		{cmd(101, 0x20, 2, 10), 4, nil, false}, // all must be asked for
 		{cmd(101, 0x20, 2, 10), 4, []string{"InitialR2T", "No"}, false},
-		{cmd(101, 0x20, 2, 2, 1, 2), 4, nil, false}, //
-		{cmd(101, 0x20, 2, 5000), 4, nil, false},    //
-		{cmd(101, 0x00, 2, 0), 4, nil, true},        // it does not write, though none must be asked for
-		{cmd(101, 0x40, 2, 10), 4, nil, true},       //
-		{cmd(101, 0x20, 2, 1, 1, 2), 4, nil, true},  //
+		{cmd(101, 0x20, 2, 2, 1, 2), 4, nil, false},
+		{cmd(101, 0x20, 2, 5000), 4, nil, false},
+		{cmd(101, 0x00, 2, 0), 4, nil, true}, // it does not write, though none must be asked for
+		{cmd(101, 0x40, 2, 10), 4, nil, true},
+		{cmd(101, 0x20, 2, 1, 1, 2), 4, nil, true},
 	} {
 		x := fullPeer(t, c.more...)
 		if c.un {

@@ -132,12 +132,10 @@ func TestManage(t *testing.T) {
 		x.asks(now(manage(0, flags, 7, 3)), back(34, want, 7, uint32(2+flags), 100, 131))
 	}
 	status := uint32(2 + 256)
-	say := func(p pdu.Pdu, of, status, expected, highest uint32, want int) {
+	say := func(flags int, of, status, expected, highest uint32, want int) {
 		t.Helper()
-		p = now(manage(0, p.Flags, 7, of))
-		x.asks(p, back(34, want, 7, status, expected, highest))
+		x.asks(now(manage(0, flags, 7, of)), back(34, want, 7, status, expected, highest))
 	}
-	kill := pdu.Pdu{Flags: 1}
 	x.asks(cmd(100, 0xc0, 4, 0))
 	told := x.does(nil)
 	x.asks(cmd(101, 0x20, 2, 100, 9, 9))
@@ -148,14 +146,14 @@ func TestManage(t *testing.T) {
 	x.asks(now(cmd(104, 0x80, 6, 0)))
 	x.asks(cmd(106, 0x80, 8, 0)) // waits for its turn: no task yet
 	x.shows(conn.Full, 6, 2)
-	say(kill, 8, status, 105, 131, 1)
-	say(kill, 2, status+1, 105, 132, 0) // its data are let go
+	say(1, 8, status, 105, 131, 1)
+	say(1, 2, status+1, 105, 132, 0) // its data are let go
 	x.shows(conn.Full, 5, 0)
-	say(kill, 2, status+2, 105, 132, 1)
-	say(pdu.Pdu{Flags: 0x82}, 1, status+3, 105, 132, 5)
-	say(kill, 1, status+4, 105, 133, 0)
-	say(kill, 3, status+5, 105, 134, 0)
-	say(kill, 4, status+6, 105, 135, 0)
+	say(1, 2, status+2, 105, 132, 1)
+	say(0x82, 1, status+3, 105, 132, 5)
+	say(1, 1, status+4, 105, 133, 0)
+	say(1, 3, status+5, 105, 134, 0)
+	say(1, 4, status+6, 105, 135, 0)
 	x.shows(conn.Full, 2, 0)
 	if e := x.c.Answer(told.Id, api.Reply{}); e != api.ErrState {
 		t.Error(e)
