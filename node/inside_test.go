@@ -8,6 +8,7 @@ import (
 
 	"caisson/api"
 	"caisson/blocks"
+	"caisson/chunk"
 	"caisson/disk"
 	"caisson/entries"
 	"caisson/extent"
@@ -117,9 +118,22 @@ func TestMostState(t *testing.T) {
 	}
 }
 
+// imageComes lets an image of the state as it is come, for another place: of the term that the log has there, or of this one.
+func (m *machine) imageComes(term, at int64, same bool) {
+	l, _ := chunk.Split(at, m.state.Bytes(), pieceSize)
+	x := api.Msg{Kind: api.Part, From: 2, Term: term, At: at, AtTerm: term, Commit: 7}
+	if there := m.Log().Term(at); same && there > 0 {
+		x.AtTerm = there
+	}
+	for _, p := range l {
+		x.Data = p
+		m.gets(x)
+	}
+}
+
 // What is kept of the log is what it is, behind any crash, however it grew, was cut back and let go of.
 func TestJournalAtRandom(t *testing.T) {
-	moved := 0
+	moved, images := 0, 0
 	for seed := range int64(15) {
 		r := rand.New(rand.NewSource(seed))
 		m := newMachine(t, 1, Conf{Nodes: 3, Units: 1, Blocks: 32, Rho: 1})
@@ -128,19 +142,28 @@ func TestJournalAtRandom(t *testing.T) {
 			low, _, _ := m.Log().Floor()
 			commit, top := m.Info().Commit, m.top()
 			at := commit + r.Int63n(top-commit+1)
-			if at < top { // what is cut back gives way to another term
-				term++
-			}
-			var l []api.Entry
-			for range r.Intn(min(17, int(low)+45-int(at))) {
-				seq++
-				if r.Intn(2) == 0 {
-					l = append(l, great(term, seq))
-				} else {
-					l = append(l, noop(term))
+			if seed%2 == 1 && r.Intn(10) == 0 { // an image comes, of a place that the log has, or has otherwise, or has not
+				m.imageComes(term, commit+1+r.Int63n(top-commit+3), r.Intn(2) == 0)
+				images++
+			} else {
+				if at < top { // what is cut back gives way to another term
+					term++
 				}
+				var l []api.Entry
+				for range r.Intn(min(17, int(low)+45-int(at))) {
+					seq++
+					if r.Intn(2) == 0 {
+						l = append(l, great(term, seq))
+					} else {
+						l = append(l, noop(term))
+					}
+				}
+				agreed := at + r.Int63n(int64(len(l))+1)
+				if seed%3 == 0 && r.Intn(12) > 0 { // little is agreed on, and the journal grows
+					agreed = 0
+				}
+				m.adds(term, at, agreed, l...)
 			}
-			m.adds(term, at, at+r.Int63n(int64(len(l))+1), l...)
 			if m.dead || !sameLog(m.journal.kept, m.Log()) {
 				t.Fatal(seed, "it is not kept")
 			}
@@ -159,8 +182,8 @@ func TestJournalAtRandom(t *testing.T) {
 			}
 		}
 	}
-	if moved == 0 {
-		t.Error("nothing was moved")
+	if moved == 0 || images == 0 {
+		t.Error("little happened:", moved, images)
 	}
 }
 
