@@ -29,7 +29,7 @@ func Local(c Conf, me, leader int, lun int, b []byte) (api.Reply, bool) {
 	if r, ok := c.local(x, leader, lun); ok {
 		return r, true
 	}
-	if leader == me && me >= 0 { // below 0 nobody is known to lead
+	if leader == me {
 		return api.Reply{}, false
 	}
 	return standsBy(), true

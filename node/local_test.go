@@ -179,18 +179,51 @@ func TestLocalData(t *testing.T) {
 	}
 }
 
-// P21.2 (P1): any numbers of machines; below 0 nobody is known to lead.
+// P21.2 (P1): any numbers of machines, those that none can have, too: who knows itself as the leader leads.
 func TestLocalOfAnyMachine(t *testing.T) {
 	c := confOf(2, 1, 8, 1)
+	for _, op := range operations {
+		for _, me := range edges {
+			for _, leader := range edges {
+				r, ok := node.Local(c, me, leader, 0, simple(op))
+				switch {
+				case isLocal(op):
+					if !ok || r.Status != api.Good || op == cdb.Ports && len(r.Data) != 28 {
+						t.Errorf("%x %d %d: %v %v", op, me, leader, r, ok)
+					}
+				case me == leader:
+					if ok || !sameReply(r, api.Reply{}) {
+						t.Errorf("%x %d %d: %v %v", op, me, leader, r, ok)
+					}
+				default:
+					if !ok || !standing(r) {
+						t.Errorf("%x %d %d: %v %v", op, me, leader, r, ok)
+					}
+				}
+			}
+		}
+	}
+}
+
+// P21.2: who leads, whatever its number, still answers what is wrong.
+func TestLocalWrongOfAnyMachine(t *testing.T) {
+	c := confOf(2, 1, 8, 1)
 	for _, me := range edges {
-		for _, leader := range edges {
-			r, ok := node.Local(c, me, leader, 0, simple(cdb.Read10))
-			if leads := me == leader && me >= 0; ok == leads || ok && !standing(r) {
-				t.Error(me, leader, r, ok)
+		for _, x := range []struct {
+			lun, asc int
+			b        []byte
+		}{
+			{0, 0x20, append([]byte{0xff}, make([]byte, 15)...)},
+			{0, 0x24, nil},
+			{1, 0x25, simple(cdb.Read10)},
+			{-1, 0x25, simple(cdb.TestUnitReady)},
+		} {
+			if r, ok := node.Local(c, me, me, x.lun, x.b); !ok || !wrong(r, x.asc) {
+				t.Errorf("%d %x: %v %v", me, x.asc, r, ok)
 			}
-			if r, ok := node.Local(c, me, leader, 0, simple(cdb.Ports)); !ok || len(r.Data) != 28 {
-				t.Error(me, leader, r, ok)
-			}
+		}
+		if r, ok := node.Local(confOf(0, 1, 8, 1), me, me, 0, simple(cdb.Read10)); ok || !sameReply(r, api.Reply{}) {
+			t.Error(me, r, ok)
 		}
 	}
 }
